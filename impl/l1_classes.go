@@ -51,6 +51,11 @@ func classAt(x int, m int) Class {
 	return Class{Rest: restOf(x, m), Mod: m}
 }
 
+// wholeClass has all whole numbers.
+func wholeClass() Class {
+	return classAt(0, 1)
+}
+
 func (c Class) valid() bool {
 	return inModuli(c.Mod) && c.Rest >= 0 && c.Rest < c.Mod
 }
