@@ -193,8 +193,8 @@ func TestP30Exact(t *testing.T) {
 	for _, period := range exactPeriods() {
 		for _, s := range exactBySearch(period) {
 			found++
-			if !impl.SystemExact(s) || impl.ExactNatural(s) != naturalBySearch(s) {
-				t.Errorf("%v is exact, SystemExact is %v, and ExactNatural is %v", s, impl.SystemExact(s), impl.ExactNatural(s))
+			if !impl.SystemExact(s) || !naturalBySearch(s) || !impl.ExactNatural(s) {
+				t.Errorf("%v is exact and natural, SystemExact is %v, and ExactNatural is %v", s, impl.SystemExact(s), impl.ExactNatural(s))
 			}
 		}
 	}

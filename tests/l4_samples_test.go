@@ -189,9 +189,9 @@ func setAll(times []bool, x int, m int, value bool) {
 	}
 }
 
-// exactPeriods are numbers that many moduli divide.
+// exactPeriods are all numbers up to 1000 for which ExactLeast is at most 8: an exact system of so few classes has no other period.
 func exactPeriods() []int {
-	return []int{1, 2, 3, 4, 5, 6, 7, 8, 9, 10, 12, 14, 15, 16, 18, 20, 24, 27, 30, 32, 36, 40, 42}
+	return []int{1, 2, 3, 4, 5, 6, 7, 8, 9, 10, 12, 14, 15, 16, 18, 20, 24, 27, 30, 32, 36, 40, 48, 54, 64, 72, 96, 128}
 }
 
 // nearSystems are natural ones with a class changed, left out, or there once more: most of them are not exact.
